@@ -1,0 +1,1 @@
+"""Patterns that repeat in the plane."""
