@@ -1,9 +1,11 @@
 """What can be asked of a square of colours that is laid side by side without end."""
 
+from planerepeats.movements import has_mirror, is_mirror_through, is_symmetry, symmetries
+
 
 def cell(n, p):
     """Answers 0, e, f, g and how many shifts of the square are symmetries; or -2."""
-    if n < 1 or n > 64:
+    if not is_side(n):
         return [-2]
     e = least_across(n, p)
     slanted = least_down(n, p, e)
@@ -14,10 +16,30 @@ def cell(n, p):
     return [0, e, f, g, (n // e) * (n // g)]
 
 
+def kind(n, p):
+    """Answers which of the twelve kinds it is, and for each A 0, 1, or 2 if a mirror has it; or -2."""
+    if not is_side(n):
+        return [-2]
+    found = symmetries(n, p)
+    marks = marks_of_ways(n, p, found)
+    if marks[1] > 0:
+        answer = kind_of_turn_4(n, p, found, marks)
+    elif marks[2] > 0:
+        answer = kind_of_turn_2(n, p, found, marks)
+    else:
+        answer = kind_of_turn_1(n, p, found, marks)
+    return [answer] + marks
+
+
+def is_side(n):
+    """Whether a square may have n places on a side."""
+    return 1 <= n <= 64
+
+
 def least_across(n, p):
     """The least e above 0 so that the shift (e, 0) is a symmetry."""
     for e in range(1, n):
-        if is_shift(n, p, e, 0):
+        if is_symmetry(n, p, 0, e, 0):
             return e
     # The square itself stands again n places on, so that n needs no look.
     return n
@@ -27,16 +49,80 @@ def least_down(n, p, e):
     """The symmetric shift (f, g) with the least g above 0, and f from 0 to e - 1."""
     for g in range(1, n):
         for f in range(e):
-            if is_shift(n, p, f, g):
+            if is_symmetry(n, p, 0, f, g):
                 return (f, g)
     # With g = n the shift (0, n) is one, and e leaves no other f beside it.
     return (0, n)
 
 
-def is_shift(n, p, a, b):
-    """Whether each place and the one that the shift (a, b) takes it to have one colour."""
-    for y in range(n):
-        for x in range(n):
-            if p[y * n + x] != p[(y + b) % n * n + (x + a) % n]:
+def marks_of_ways(n, p, found):
+    """For each A from 0 to 7: 0 if no symmetry has it, else 1, or 2 if a mirror has it."""
+    ways = [movement[0] for movement in found]
+    marks = []
+    for way in range(8):
+        if way not in ways:
+            marks.append(0)
+        elif way >= 4 and has_mirror(n, p, way):
+            marks.append(2)
+        else:
+            marks.append(1)
+    return marks
+
+
+def kind_of_turn_1(n, p, found, marks):
+    """The kind, from 0 to 3, of a pattern that nothing turns."""
+    most = max(marks[4:])
+    if most == 0:
+        return 0
+    if most == 1:
+        return 3
+    if all_are_on_mirrors(n, p, found):
+        return 1
+    return 2
+
+
+def kind_of_turn_2(n, p, found, marks):
+    """The kind, from 4 to 8, of a pattern whose greatest turn is 2."""
+    if max(marks[4:]) == 0:
+        return 4
+    mirrored = marks[4:].count(2)
+    if mirrored == 0:
+        return 8
+    if mirrored == 1:
+        return 7
+    if all_are_on_mirrors(n, p, found):
+        return 5
+    return 6
+
+
+def kind_of_turn_4(n, p, found, marks):
+    """The kind, from 9 to 11, of a pattern whose greatest turn is 4."""
+    if max(marks[4:]) == 0:
+        return 9
+    if some_turn_is_on_mirror(n, p, found):
+        return 10
+    return 11
+
+
+def all_are_on_mirrors(n, p, found):
+    """Whether each symmetry that is turned over is on a mirror."""
+    over = [movement for movement in found if movement[0] >= 4]
+    for way, a, b in over:
+        # A shift less the shift along is that of the mirror through half the shift. With n added
+        # to a that may be another mirror; n added to b, or once more, brings no third, modulo n.
+        for longer in (a, a + n):
+            if not is_mirror_through(n, p, way, longer, b):
                 return False
     return True
+
+
+def some_turn_is_on_mirror(n, p, found):
+    """Whether some symmetry with A 1 and some mirror leave the same point."""
+    turns = [movement for movement in found if movement[0] == 1]
+    for turn, a, b in turns:
+        # The point is (a - b) / 2, (a + b) / 2. With n added to a or b, the mirrors through it are,
+        # modulo n, the same.
+        for way in range(4, 8):
+            if is_mirror_through(n, p, way, a - b, a + b):
+                return True
+    return False

@@ -1,15 +1,9 @@
 """Promise 1 (cell), and what the row on -2 says of n."""
 
-import contextlib
-import io
 import unittest
 
 from planerepeats.patterns import cell
-
-
-def square(n, colour):
-    """The square of n n colours, row by row, with the colour that colour(x, y) tells."""
-    return [colour(x, y) for y in range(n) for x in range(n)]
+from tests.squares import SquareCalls, every_square, square
 
 
 def symmetric_shifts(n, p):
@@ -48,16 +42,6 @@ def square_of_cell(n, e, f, g):
     return square(n, lambda x, y: y % g * e + (x - y // g * f) % e)
 
 
-class FixedList(list):
-    """A list that can't be changed, not for a while either."""
-
-    def refuse(self, *args, **kwargs):
-        raise AssertionError("the list that was handed in is changed")
-
-    __setitem__ = __delitem__ = __iadd__ = __imul__ = refuse
-    append = clear = extend = insert = pop = remove = reverse = sort = refuse
-
-
 class OrdinarySquares(unittest.TestCase):
     def check(self, n, p, wanted):
         self.assertEqual(len(p), n * n)
@@ -92,8 +76,7 @@ class OrdinarySquares(unittest.TestCase):
 
     def test_all_small_squares_against_a_plain_search(self):
         for n, colours in ((1, 4), (2, 4), (3, 2)):
-            for number in range(colours ** (n * n)):
-                p = [number // colours ** i % colours for i in range(n * n)]
+            for p in every_square(n, colours):
                 with self.subTest(n=n, p=p):
                     self.check(n, p, cell_by_search(n, p))
 
@@ -153,57 +136,14 @@ class Edges(unittest.TestCase):
         self.assertEqual(cell(6, [255] + [0] * 35), [0, 6, 0, 6, 1])
 
 
-class Refusal(unittest.TestCase):
-    def test_n_out_of_its_range(self):
-        for n in (0, -1, -2147483648, 65, 2147483647):
-            with self.subTest(n=n):
-                self.assertEqual(cell(n, []), [-2])
-
-
-class Interface(unittest.TestCase):
-    calls = (
-        (1, (255,)),
-        (2, (0, 1, 1, 0)),
-        (4, (1, 2, 1, 2, 3, 4, 3, 4, 1, 2, 1, 2, 3, 4, 3, 4)),
-        (6, tuple(range(36))),
-        (0, ()),
-        (65, ()),
-    )
-
-    def test_a_list_of_whole_numbers(self):
-        for n, p in self.calls:
-            answer = cell(n, list(p))
-            self.assertIs(type(answer), list)
-            self.assertEqual({type(number) for number in answer}, {int})
-
-    def test_the_names_of_the_arguments(self):
-        self.assertEqual(cell(n=2, p=[0, 1, 1, 0]), [0, 2, 1, 1, 2])
-
-    def test_what_is_handed_in_stays_as_it_was(self):
-        for n, p in self.calls:
-            handed_in = FixedList(p)
-            cell(n, handed_in)
-            self.assertEqual(list(handed_in), list(p))
-
-    def test_nothing_is_kept_from_one_call_to_the_next(self):
-        first = [cell(n, list(p)) for n, p in self.calls]
-        wanted = [list(answer) for answer in first]
-        for answer in first:
-            answer.append(99)
-        self.assertEqual([cell(n, list(p)) for n, p in self.calls], wanted)
+class Interface(SquareCalls, unittest.TestCase):
+    ask = staticmethod(cell)
 
     def test_the_same_list_with_other_colours(self):
         p = [0, 1, 1, 0]
         self.assertEqual(cell(2, p), [0, 2, 1, 1, 2])
         p[3] = 2
         self.assertEqual(cell(2, p), [0, 2, 0, 2, 1])
-
-    def test_it_prints_nothing(self):
-        printed = io.StringIO()
-        with contextlib.redirect_stdout(printed), contextlib.redirect_stderr(printed):
-            for n, p in self.calls:
-                cell(n, list(p))
-        self.assertEqual(printed.getvalue(), "")
 
 
 if __name__ == "__main__":
