@@ -1,6 +1,6 @@
 """What can be asked of a square of colours that is laid side by side without end."""
 
-from planerepeats.movements import has_mirror, is_mirror_through, is_symmetry, symmetries
+from planerepeats.movements import has_mirror, is_mirror_through, is_symmetry, symmetries, taken
 
 
 def cell(n, p):
@@ -29,6 +29,23 @@ def kind(n, p):
     else:
         answer = kind_of_turn_1(n, p, found, marks)
     return [answer] + marks
+
+
+def alike(n, p):
+    """Answers how many places are the least of those alike, and for each place its least; or -2."""
+    if not is_side(n):
+        return [-2]
+    found = symmetries(n, p)
+    leasts = [None] * (n * n)
+    how_many = 0
+    for place in range(n * n):
+        # Symmetries can be undone and done one after the other: where no lesser place is taken to
+        # this one, it is the least for each that it is taken to.
+        if leasts[place] is None:
+            how_many += 1
+            for way, a, b in found:
+                leasts[taken(n, way, a, b, place)] = place
+    return [how_many] + leasts
 
 
 def is_side(n):

@@ -102,6 +102,20 @@ class FixedList(list):
     append = clear = extend = insert = pop = remove = reverse = sort = refuse
 
 
+class AnswerChecks:
+    """How a test checks what ask, the function that it is about, answers."""
+
+    def check(self, n, p, wanted):
+        self.assertEqual(len(p), n * n)
+        with self.subTest(n=n, p=p):
+            self.assertEqual(self.ask(n, p), wanted)
+
+    def check_rows(self, rows, wanted):
+        """rows: a text whose words are the rows, each sign a colour."""
+        rows = rows.split()
+        self.check(len(rows), [ord(sign) for row in rows for sign in row], wanted)
+
+
 class SquareCalls:
     """What the document says of each function that is asked with n and p; ask is that function."""
 

@@ -3,7 +3,7 @@
 import unittest
 
 from planerepeats.patterns import cell
-from tests.squares import SquareCalls, every_square, square
+from tests.squares import AnswerChecks, SquareCalls, every_square, square
 
 
 def symmetric_shifts(n, p):
@@ -42,10 +42,8 @@ def square_of_cell(n, e, f, g):
     return square(n, lambda x, y: y % g * e + (x - y // g * f) % e)
 
 
-class OrdinarySquares(unittest.TestCase):
-    def check(self, n, p, wanted):
-        self.assertEqual(len(p), n * n)
-        self.assertEqual(cell(n, p), wanted)
+class OrdinarySquares(AnswerChecks, unittest.TestCase):
+    ask = staticmethod(cell)
 
     def test_upright_cells(self):
         self.check(2, [0, 1, 0, 1], [0, 2, 0, 1, 2])

@@ -4,7 +4,7 @@ import unittest
 from fractions import Fraction
 
 from planerepeats.patterns import kind
-from tests.squares import SquareCalls, every_square, is_symmetry, moved, square
+from tests.squares import AnswerChecks, SquareCalls, every_square, is_symmetry, moved, square
 from tests.squares import squares_with_symmetries, symmetries_by_search
 
 
@@ -56,16 +56,8 @@ def kind_by_search(n, p):
     return [answer] + marks
 
 
-class Checks(unittest.TestCase):
-    def check(self, n, p, wanted):
-        self.assertEqual(len(p), n * n)
-        with self.subTest(n=n, p=p):
-            self.assertEqual(kind(n, p), wanted)
-
-    def check_rows(self, rows, wanted):
-        """rows: a text whose words are the rows, a digit or letter a colour."""
-        rows = rows.split()
-        self.check(len(rows), [ord(sign) for row in rows for sign in row], wanted)
+class Checks(AnswerChecks, unittest.TestCase):
+    ask = staticmethod(kind)
 
     def check_by_search(self, n, p):
         self.check(n, p, kind_by_search(n, p))
