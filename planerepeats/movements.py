@@ -26,15 +26,30 @@ def is_symmetry(n, p, way, a, b):
     return True
 
 
-def symmetries(n, p):
-    """Each symmetry whose shift is from 0 to n - 1 in both parts, as (way, a, b)."""
+def movements_by(n, what):
+    """Each movement whose shift is from 0 to n - 1 in both parts, as (way, a, b).
+
+    what 0: those with A 0; 1: those with turns; 2: all.
+    """
     found = []
-    for way in range(8):
+    for way in range((1, 4, 8)[what]):
         for b in range(n):
             for a in range(n):
-                if is_symmetry(n, p, way, a, b):
-                    found.append((way, a, b))
+                found.append((way, a, b))
     return found
+
+
+def symmetries(n, p):
+    """Each symmetry whose shift is from 0 to n - 1 in both parts, as (way, a, b)."""
+    return [movement for movement in movements_by(n, 2) if is_symmetry(n, p, movement[0], movement[1], movement[2])]
+
+
+def made(n, p, way, a, b):
+    """The square of the pattern that a movement makes of this one."""
+    square = list(p)
+    for place in range(n * n):
+        square[taken(n, way, a, b, place)] = p[place]
+    return square
 
 
 def has_mirror(n, p, way):

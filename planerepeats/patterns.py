@@ -1,6 +1,7 @@
 """What can be asked of a square of colours that is laid side by side without end."""
 
-from planerepeats.movements import has_mirror, is_mirror_through, is_symmetry, symmetries, taken
+from planerepeats.movements import has_mirror, is_mirror_through, is_symmetry, made, movements_by
+from planerepeats.movements import symmetries, taken
 
 
 def cell(n, p):
@@ -48,9 +49,23 @@ def alike(n, p):
     return [how_many] + leasts
 
 
+def least(n, what, p):
+    """Answers how many patterns the movements make of it, by what, and the first of them; or -2."""
+    if not is_side(n) or not is_what(what):
+        return [-2]
+    # A shift does the same as another one that is n further on, so that these make them all.
+    squares = [tuple(made(n, p, way, a, b)) for way, a, b in movements_by(n, what)]
+    return [len(set(squares))] + list(min(squares))
+
+
 def is_side(n):
     """Whether a square may have n places on a side."""
     return 1 <= n <= 64
+
+
+def is_what(what):
+    """Whether what tells which movements are meant."""
+    return 0 <= what <= 2
 
 
 def least_across(n, p):
