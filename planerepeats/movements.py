@@ -52,6 +52,20 @@ def made(n, p, way, a, b):
     return square
 
 
+def how_many_cycles(n, way, a, b):
+    """How many sets of the square's places there are that a movement, over and over, leads round in."""
+    seen = [False] * (n * n)
+    cycles = 0
+    for start in range(n * n):
+        if not seen[start]:
+            cycles += 1
+            place = start
+            while not seen[place]:
+                seen[place] = True
+                place = taken(n, way, a, b, place)
+    return cycles
+
+
 def has_mirror(n, p, way):
     """Whether some mirror has this A, which is turned over."""
     # Only with these shifts does A, done twice, leave each place; modulo n they begin again at n.

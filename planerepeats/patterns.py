@@ -1,7 +1,7 @@
 """What can be asked of a square of colours that is laid side by side without end."""
 
-from planerepeats.movements import has_mirror, is_mirror_through, is_symmetry, made, movements_by
-from planerepeats.movements import symmetries, taken
+from planerepeats.movements import has_mirror, how_many_cycles, is_mirror_through, is_symmetry
+from planerepeats.movements import made, movements_by, symmetries, taken
 
 
 def cell(n, p):
@@ -58,6 +58,16 @@ def least(n, what, p):
     return [len(set(squares))] + list(min(squares))
 
 
+def count(n, colours, what, most):
+    """Answers how many bytes the number of unlike squares has in decimal, then these bytes; or -1, -2."""
+    if not 1 <= n <= 8 or not 1 <= colours <= 10 or not is_what(what) or most < 0:
+        return [-2]
+    decimal = str(unlike_squares(n, colours, what))
+    if len(decimal) > most:
+        return [-1]
+    return [len(decimal)] + [ord(digit) for digit in decimal]
+
+
 def is_side(n):
     """Whether a square may have n places on a side."""
     return 1 <= n <= 64
@@ -66,6 +76,19 @@ def is_side(n):
 def is_what(what):
     """Whether what tells which movements are meant."""
     return 0 <= what <= 2
+
+
+def unlike_squares(n, colours, what):
+    """How many squares there are, if those that movements make of one another count as one."""
+    powers = [1]
+    for place in range(n * n):
+        powers.append(powers[place] * colours)
+    meant = movements_by(n, what)
+    # Of k squares that movements make of one another each is left by one movement in k: together
+    # they are left as often as there are movements. A movement leaves those squares that have one
+    # colour in each of its cycles.
+    left = sum([powers[how_many_cycles(n, way, a, b)] for way, a, b in meant])
+    return left // len(meant)
 
 
 def least_across(n, p):
